@@ -17,7 +17,7 @@ func File(p split.Plan, most int, data string) (Item, []pack.Object, api.Errno) 
 	if e != api.OK {
 		return Item{}, nil, e
 	}
-	m := maker{met: map[api.Id]struct{}{}}
+	m := maker{met: map[pack.Object]struct{}{}}
 	m.makeBlobs(chunks, data)
 	m.makeLists(nodes)
 	return m.items[len(m.items)-1], m.objects, api.OK
@@ -35,7 +35,7 @@ func levels(chunks []split.Chunk) []int {
 type maker struct {
 	items   []Item // of the chunks and then of the nodes, by the numbers that split.Tiers gives them; the last one is the root
 	objects []pack.Object
-	met     map[api.Id]struct{}
+	met     map[pack.Object]struct{} // not by their names: unlike objects that have one name are not the same
 }
 
 func (m *maker) makeBlobs(chunks []split.Chunk, data string) {
@@ -70,8 +70,13 @@ func (m *maker) add(c content) {
 	o := pack.Object{Kind: i.Kind, Payload: c.payload()}
 	i.Id = digest.Of(o.Kind, o.Payload)
 	m.items = append(m.items, i)
-	if _, isMet := m.met[i.Id]; !isMet {
-		m.met[i.Id] = struct{}{}
+	m.keep(o)
+}
+
+// keep leaves out what is the same as one ahead of it.
+func (m *maker) keep(o pack.Object) {
+	if _, isMet := m.met[o]; !isMet {
+		m.met[o] = struct{}{}
 		m.objects = append(m.objects, o)
 	}
 }
